@@ -1,0 +1,55 @@
+// Package folio: pages as they come, and what stands on them: see DOC.md.
+package folio
+
+import (
+	"strings"
+
+	"folio/api"
+	"folio/letters"
+)
+
+// Decode tells the letters of bytes (P2).
+func Decode(bytes string) (string, api.Errno) {
+	if len(bytes) > api.MaxBytes {
+		return "", api.ErrLarge
+	}
+	var text strings.Builder
+	letters.Each([]string{bytes}, func(letter rune) { text.WriteRune(letter) })
+	return text.String(), api.OK
+}
+
+// Tokens tells the tokens of a text (P3).
+func Tokens(text string) ([]api.Token, api.Errno) { return nil, api.OK }
+
+// Parser takes a page's bytes, piece by piece.
+type Parser struct{}
+
+// New makes a parser (P4).
+func New() *Parser { return nil }
+
+// Feed takes a piece (P4).
+func (p *Parser) Feed(bytes string) api.Errno { return api.OK }
+
+// End ends a page (P4).
+func (p *Parser) End() (*Page, api.Errno) { return nil, api.OK }
+
+// Page is a page that has ended.
+type Page struct{}
+
+// Nodes tells the tree (P4).
+func (p *Page) Nodes() []api.Node { return nil }
+
+// Title tells the title (P5).
+func (p *Page) Title() string { return "" }
+
+// Text tells the text that is to be read (P5).
+func (p *Page) Text() string { return "" }
+
+// Links tells where the links lead (P5).
+func (p *Page) Links(address string) []string { return nil }
+
+// Resolve resolves a reference (P5).
+func Resolve(base string, reference string) string { return "" }
+
+// Write writes a tree (P6).
+func Write(nodes []api.Node) (string, api.Errno) { return "", api.OK }
