@@ -2,10 +2,9 @@
 package folio
 
 import (
-	"strings"
-
 	"folio/api"
 	"folio/letters"
+	"folio/tokens"
 )
 
 // Decode tells the letters of bytes (P2).
@@ -13,13 +12,23 @@ func Decode(bytes string) (string, api.Errno) {
 	if len(bytes) > api.MaxBytes {
 		return "", api.ErrLarge
 	}
-	var text strings.Builder
-	letters.Each([]string{bytes}, func(letter rune) { text.WriteRune(letter) })
-	return text.String(), api.OK
+	var text string
+	letters.OfBytes([]string{bytes}, func(row *letters.Row) {
+		// There are no more letters than bytes.
+		text = row.Text(0, len(bytes))
+	})
+	return text, api.OK
 }
 
 // Tokens tells the tokens of a text (P3).
-func Tokens(text string) ([]api.Token, api.Errno) { return nil, api.OK }
+func Tokens(text string) ([]api.Token, api.Errno) {
+	if len(text) > api.MaxBytes {
+		return nil, api.ErrLarge
+	}
+	var list []api.Token
+	letters.OfText(text, func(row *letters.Row) { list = tokens.Of(row) })
+	return list, api.OK
+}
 
 // Parser takes a page's bytes, piece by piece.
 type Parser struct{}

@@ -2,29 +2,34 @@ package letters
 
 import "sync"
 
-// Each hands the letters of the pieces, read as one row of bytes, to take, in order. A goroutine reads them; it has ended when Each answers.
-func Each(pieces []string, take func(rune)) {
-	// Without room in the channel no letter can wait in it when the end is told, so that receive never has a choice between the two.
+// OfBytes lets next go through the letters of the pieces, read as one row of bytes.
+func OfBytes(pieces []string, next func(*Row)) {
+	run(func(send func(rune)) { read(pieces, send) }, next)
+}
+
+// OfText lets next go through the letters of a text as they are; bytes that are none are a substitute each.
+func OfText(text string, next func(*Row)) {
+	run(func(send func(rune)) {
+		for _, letter := range text {
+			send(letter)
+		}
+	}, next)
+}
+
+// run has a goroutine read, which has ended when run answers.
+func run(read func(send func(rune)), next func(*Row)) {
+	// Without room in the channel no letter can wait in it when the end is told, so that a row never has a choice between the two.
 	letters := make(chan rune)
 	end := make(chan struct{})
 	var reading sync.WaitGroup
 	reading.Go(func() {
 		defer close(end)
-		read(pieces, func(letter rune) { letters <- letter })
+		read(func(letter rune) { letters <- letter })
 	})
-	receive(letters, end, take)
+	row := &Row{letters: letters, end: end}
+	next(row)
+	row.drain()
 	reading.Wait()
-}
-
-func receive(letters <-chan rune, end <-chan struct{}, take func(rune)) {
-	for {
-		select {
-		case letter := <-letters:
-			take(letter)
-		case <-end:
-			return
-		}
-	}
 }
 
 func read(pieces []string, send func(rune)) {
