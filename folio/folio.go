@@ -2,9 +2,13 @@
 package folio
 
 import (
+	"slices"
+	"strings"
+
 	"folio/api"
 	"folio/letters"
 	"folio/tokens"
+	"folio/tree"
 )
 
 // Decode tells the letters of bytes (P2).
@@ -31,22 +35,54 @@ func Tokens(text string) ([]api.Token, api.Errno) {
 }
 
 // Parser takes a page's bytes, piece by piece.
-type Parser struct{}
+type Parser struct {
+	pieces []string
+	size   int // of all pieces
+	ended  bool
+}
 
 // New makes a parser (P4).
-func New() *Parser { return nil }
+func New() *Parser { return &Parser{} }
 
 // Feed takes a piece (P4).
-func (p *Parser) Feed(bytes string) api.Errno { return api.OK }
+func (p *Parser) Feed(bytes string) api.Errno {
+	switch {
+	case p.ended:
+		return api.ErrEnded
+	case len(bytes) > api.MaxBytes-p.size:
+		return api.ErrLarge
+	case bytes != "":
+		p.pieces = append(p.pieces, strings.Clone(bytes))
+		p.size += len(bytes)
+	}
+	return api.OK
+}
 
 // End ends a page (P4).
-func (p *Parser) End() (*Page, api.Errno) { return nil, api.OK }
+func (p *Parser) End() (*Page, api.Errno) {
+	if p.ended {
+		return nil, api.ErrEnded
+	}
+	var page Page
+	letters.OfBytes(p.pieces, func(row *letters.Row) { page.nodes = tree.Of(tokens.Of(row)) })
+	*p = Parser{ended: true}
+	return &page, api.OK
+}
 
 // Page is a page that has ended.
-type Page struct{}
+type Page struct {
+	nodes []api.Node
+}
 
 // Nodes tells the tree (P4).
-func (p *Page) Nodes() []api.Node { return nil }
+func (p *Page) Nodes() []api.Node {
+	nodes := slices.Clone(p.nodes)
+	for i := range nodes {
+		// Elements that were opened again have one list within the page.
+		nodes[i].Attrs = slices.Clone(nodes[i].Attrs)
+	}
+	return nodes
+}
 
 // Title tells the title (P5).
 func (p *Page) Title() string { return "" }
