@@ -5,10 +5,13 @@ import (
 	"slices"
 	"strings"
 
+	"folio/addresses"
 	"folio/api"
 	"folio/letters"
+	"folio/reading"
 	"folio/tokens"
 	"folio/tree"
+	"folio/writing"
 )
 
 // Decode tells the letters of bytes (P2).
@@ -85,16 +88,22 @@ func (p *Page) Nodes() []api.Node {
 }
 
 // Title tells the title (P5).
-func (p *Page) Title() string { return "" }
+func (p *Page) Title() string { return reading.Title(p.nodes) }
 
 // Text tells the text that is to be read (P5).
-func (p *Page) Text() string { return "" }
+func (p *Page) Text() string { return reading.Text(p.nodes) }
 
 // Links tells where the links lead (P5).
-func (p *Page) Links(address string) []string { return nil }
+func (p *Page) Links(address string) []string { return reading.Links(p.nodes, address) }
 
 // Resolve resolves a reference (P5).
-func Resolve(base string, reference string) string { return "" }
+func Resolve(base string, reference string) string { return addresses.Resolve(base, reference) }
 
 // Write writes a tree (P6).
-func Write(nodes []api.Node) (string, api.Errno) { return "", api.OK }
+func Write(nodes []api.Node) (string, api.Errno) {
+	text, isTree := writing.Of(nodes)
+	if !isTree {
+		return "", api.ErrTree
+	}
+	return text, api.OK
+}
