@@ -24,12 +24,37 @@ type builder struct {
 	row   []int // the numbers of the open elements
 	again []int // the numbers of the forms that are to be opened again
 	where place
+	guide guide
 }
 
-// Of tells the tree of tokens.
+// guide tells what tags of a name do: early ones, in front and in the head, and those in the body.
+type guide struct {
+	earlyStart, earlyEnd, start, end func(name string) []deed
+}
+
+// Of tells the tree of tokens. What their tags do it works out anew for each.
 func Of(list []api.Token) []api.Node {
+	return build(list, guide{
+		earlyStart: rules(earlyStartRules).of,
+		earlyEnd:   rules(earlyEndRules).of,
+		start:      rules(startRules).of,
+		end:        rules(endRules).of,
+	})
+}
+
+// ByTable tells the tree of tokens, the same as Of. What their tags do it takes from the tables, which start-up filled by the same rules.
+func ByTable(list []api.Token) []api.Node {
+	return build(list, guide{
+		earlyStart: earlyStarts.of,
+		earlyEnd:   earlyEnds.of,
+		start:      starts.of,
+		end:        ends.of,
+	})
+}
+
+func build(list []api.Token, by guide) []api.Node {
 	html := api.Node{Kind: api.Element, Parent: -1, Name: "html"}
-	b := builder{nodes: []api.Node{html}, row: []int{0}}
+	b := builder{nodes: []api.Node{html}, row: []int{0}, guide: by}
 	for _, token := range list {
 		b.take(token)
 	}
@@ -69,18 +94,28 @@ func (b *builder) takeText(text string) {
 }
 
 func (b *builder) takeStart(tag api.Token) {
-	if b.where != inBody && earlyStarts.do(b, tag) == isAll {
+	if b.where != inBody && b.do(b.guide.earlyStart, tag) == isAll {
 		return
 	}
-	if starts.do(b, tag) == goOn {
+	if b.do(b.guide.start, tag) == goOn {
 		b.openTag(tag)
 	}
 }
 
 func (b *builder) takeEnd(tag api.Token) {
-	if b.where == inBody || earlyEnds.do(b, tag) == goOn {
-		ends.do(b, tag)
+	if b.where == inBody || b.do(b.guide.earlyEnd, tag) == goOn {
+		b.do(b.guide.end, tag)
 	}
+}
+
+// do does what a tag's name asks for, in order, up to what says that that is all.
+func (b *builder) do(asked func(name string) []deed, tag api.Token) bool {
+	for _, do := range asked(tag.Name) {
+		if do(b, tag) == isAll {
+			return isAll
+		}
+	}
+	return goOn
 }
 
 func (b *builder) goIntoHead(attrs ...api.Attr) {
